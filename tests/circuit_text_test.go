@@ -169,24 +169,6 @@ func TestTextsWithOneByteChanged(t *testing.T) {
 		circuitOf(10, 12, []impl.Gate{xorGate(20, 11), oneGate(), notGate(10), andGate(23, 24)}, 25, 10, 0), sampleCircuit(3, 0, 9, 5, 4),
 	}
 	for _, c := range circuits {
-		s := circuitTextByHand(c)
-		for i := range len(s) + 1 {
-			for _, b := range " \n\r\t+-_.,xo0129N\x00" {
-				checkParse(t, s[:i]+string(b)+s[i:])
-				if i < len(s) {
-					checkParse(t, s[:i]+string(b)+s[i+1:])
-				}
-			}
-			if i < len(s) {
-				checkParse(t, s[:i]+s[i+1:])
-				checkParse(t, s[:i])
-				checkParse(t, s[i:])
-			}
-		}
-		lines := strings.SplitAfter(s, "\n")
-		for i := range lines {
-			checkParse(t, strings.Join(slices.Delete(slices.Clone(lines), i, i+1), ""))
-			checkParse(t, strings.Join(slices.Insert(slices.Clone(lines), i, lines[i]), ""))
-		}
+		eachNearText(circuitTextByHand(c), " \n\r\t+-_.,xo0129N\x00", func(s string) { checkParse(t, s) })
 	}
 }

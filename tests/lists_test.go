@@ -2,6 +2,7 @@ package tests
 
 import (
 	"slices"
+	"strings"
 	"testing"
 )
 
@@ -61,4 +62,27 @@ func sampleBits(n int, seed int) []int {
 // repeated returns n times the number x.
 func repeated(x int, n int) []int {
 	return slices.Repeat([]int{x}, n)
+}
+
+// eachNearText calls visit with the beginnings and ends of a text, and with what it is with a byte of
+// bytes put in or put in the place of one, with one left out, and with a line left out or written twice.
+func eachNearText(s string, bytes string, visit func(near string)) {
+	for i := range len(s) + 1 {
+		for _, b := range bytes {
+			visit(s[:i] + string(b) + s[i:])
+			if i < len(s) {
+				visit(s[:i] + string(b) + s[i+1:])
+			}
+		}
+		if i < len(s) {
+			visit(s[:i] + s[i+1:])
+			visit(s[:i])
+			visit(s[i:])
+		}
+	}
+	lines := strings.SplitAfter(s, "\n")
+	for i := range lines {
+		visit(strings.Join(slices.Delete(slices.Clone(lines), i, i+1), ""))
+		visit(strings.Join(slices.Insert(slices.Clone(lines), i, lines[i]), ""))
+	}
 }
