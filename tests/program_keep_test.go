@@ -121,25 +121,28 @@ func overwriteLines(l []impl.Line) {
 
 // programResult is what a call returned; only the fields that the function has results for are set.
 type programResult struct {
-	list   []int
-	names  []string
-	lines  []impl.Line
-	number int
-	text   string
-	ok     bool
+	list    []int
+	names   []string
+	lines   []impl.Line
+	circuit impl.Circuit
+	number  int
+	text    string
+	ok      bool
 }
 
 func (r programResult) isZero() bool {
-	return len(r.list) == 0 && len(r.names) == 0 && len(r.lines) == 0 && r.number == 0 && r.text == "" && !r.ok
+	return len(r.list) == 0 && len(r.names) == 0 && len(r.lines) == 0 && sameCircuit(r.circuit, impl.Circuit{}) && r.number == 0 && r.text == "" && !r.ok
 }
 
 func (r programResult) clone() programResult {
 	r.list, r.names, r.lines = slices.Clone(r.list), slices.Clone(r.names), cloneLines(r.lines)
+	r.circuit.Gates, r.circuit.Outs = slices.Clone(r.circuit.Gates), slices.Clone(r.circuit.Outs)
 	return r
 }
 
 func (r programResult) overwrite() {
 	overwrite(impl.Circuit{Outs: r.list})
+	overwrite(r.circuit)
 	overwriteNames(r.names)
 	overwriteLines(r.lines)
 }
